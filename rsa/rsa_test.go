@@ -333,14 +333,6 @@ func TestT2Errors(t *testing.T) {
 			askParts(t, 4, 4, k, x, 0, api.ErrRange)
 		}
 	}
-	for _, far := range farExponents {
-		for _, x := range []int64{-1, 0, 1, 4, 32, 33} {
-			askLock(t, api.Key{N: 33, E: far, D: 7}, x, 0, api.ErrRange)
-			askOpen(t, api.Key{N: 33, E: 3, D: far}, x, 0, api.ErrRange)
-			askParts(t, 3, 11, api.Key{N: 33, E: 3, D: far}, x, 0, api.ErrRange)
-			askParts(t, 3, 13, api.Key{N: 33, E: 3, D: far}, x, 0, api.ErrRange)
-		}
-	}
 	for _, x := range []int64{-1, -2, -33, 33, 34, 66, mod, 1 << 32, 1<<32 + 4, math.MaxInt64, math.MinInt64} {
 		askLock(t, example, x, 0, api.ErrRange)
 		askOpen(t, example, x, 0, api.ErrRange)
@@ -349,13 +341,41 @@ func TestT2Errors(t *testing.T) {
 	}
 }
 
-// Who locks has no D, and who opens needs no E.
-func TestT2OtherField(t *testing.T) {
-	for _, far := range append([]int64{1, 2, 3, most}, farExponents...) {
+// askOutOfRange asks all three calls with a key that is out of bounds, Parts also of what are not its primes.
+func askOutOfRange(t *testing.T, k api.Key, x int64) {
+	t.Helper()
+	askLock(t, k, x, 0, api.ErrRange)
+	askOpen(t, k, x, 0, api.ErrRange)
+	for _, pair := range [][2]int64{{3, 11}, {3, 13}, {0, 0}, {-3, -11}} {
+		askParts(t, pair[0], pair[1], k, x, 0, api.ErrRange)
+	}
+}
+
+// Each of E and D is to be in range, whichever of the calls it is.
+func TestT2EOrDOutOfRange(t *testing.T) {
+	for _, far := range farExponents {
+		for _, x := range []int64{-1, 0, 1, 4, 31, 32, 33} {
+			for _, k := range []int64{1, 3, 7, most, far} {
+				askOutOfRange(t, api.Key{N: 33, E: k, D: far}, x)
+				askOutOfRange(t, api.Key{N: 33, E: far, D: k}, x)
+			}
+		}
+		for _, n := range []int64{1, 2, 33, mod} {
+			askOutOfRange(t, api.Key{N: n, E: 1, D: far}, 0)
+			askOutOfRange(t, api.Key{N: n, E: far, D: 1}, 0)
+		}
+	}
+	askOutOfRange(t, api.Key{N: 33}, 0)
+	askOutOfRange(t, api.Key{}, 0)
+}
+
+// What is in range of the other one changes nothing.
+func TestT2OtherOfEAndD(t *testing.T) {
+	for _, other := range []int64{1, 2, 3, 33, 34, mod, mod + 1, most - 1, most} {
 		for x := range int64(33) {
-			askLock(t, api.Key{N: 33, E: 3, D: far}, x, counted(x, 3, 33), api.OK)
-			askOpen(t, api.Key{N: 33, E: far, D: 7}, x, counted(x, 7, 33), api.OK)
-			askParts(t, 3, 11, api.Key{N: 33, E: far, D: 7}, x, counted(x, 7, 33), api.OK)
+			askLock(t, api.Key{N: 33, E: 3, D: other}, x, counted(x, 3, 33), api.OK)
+			askOpen(t, api.Key{N: 33, E: other, D: 7}, x, counted(x, 7, 33), api.OK)
+			askParts(t, 3, 11, api.Key{N: 33, E: other, D: 7}, x, counted(x, 7, 33), api.OK)
 		}
 	}
 }
@@ -415,7 +435,7 @@ func TestT2PartsOfAnyD(t *testing.T) {
 	for i, p := range list {
 		for _, q := range list[:i] {
 			for _, d := range []int64{1, 2, 3, 4, 7, p - 1, p, p * q, p*q + 1, mod, most - 1, most} {
-				k := api.Key{N: p * q, D: d}
+				k := api.Key{N: p * q, E: 1, D: d}
 				for y := range p * q {
 					askParts(t, p, q, k, y, pow(y, d, p*q), api.OK)
 				}
@@ -427,7 +447,7 @@ func TestT2PartsOfAnyD(t *testing.T) {
 		p, q := pair[0], pair[1]
 		for _, d := range []int64{1, 2, 3, mod, most - 1, most} {
 			for _, y := range []int64{0, 1, 2, p, q, p*q - p, p*q - q, p*q - 2, p*q - 1} {
-				askParts(t, p, q, api.Key{N: p * q, D: d}, y, pow(y, d, p*q), api.OK)
+				askParts(t, p, q, api.Key{N: p * q, E: 1, D: d}, y, pow(y, d, p*q), api.OK)
 			}
 		}
 	}
@@ -468,9 +488,9 @@ func TestT2NotTwoPrimesOfN(t *testing.T) {
 	}
 	// The square of a prime has not two.
 	for _, p := range []int64{2, 3, 11, 1021} {
-		askParts(t, p, p, api.Key{N: p * p, D: 1}, 1, 0, api.ErrArg)
-		askParts(t, 1, p*p, api.Key{N: p * p, D: 1}, 1, 0, api.ErrArg)
-		askParts(t, 1, p, api.Key{N: p, D: 1}, 1, 0, api.ErrArg)
+		askParts(t, p, p, api.Key{N: p * p, E: 1, D: 1}, 1, 0, api.ErrArg)
+		askParts(t, 1, p*p, api.Key{N: p * p, E: 1, D: 1}, 1, 0, api.ErrArg)
+		askParts(t, 1, p, api.Key{N: p, E: 1, D: 1}, 1, 0, api.ErrArg)
 	}
 }
 
